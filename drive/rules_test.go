@@ -37,8 +37,6 @@ func (u *used) same(v *used) bool {
 
 // spoil changes a list, and what is behind its end.
 func spoil[T any](l []T) {
-	var zero T
-	l = append(l, zero)
 	clear(l[:cap(l)])
 }
 

@@ -11,8 +11,6 @@ import (
 
 // spoil changes a list, and what is behind its end.
 func spoil[T any](l []T) {
-	var zero T
-	l = append(l, zero)
 	clear(l[:cap(l)])
 }
 
